@@ -3,7 +3,9 @@ package tests
 import (
 	"math/big"
 	"math/rand"
+	"reflect"
 	"slices"
+	"testing"
 
 	"loop.example/g00649/impl"
 )
@@ -198,4 +200,23 @@ func conditionWorth(wide int, op int, a uint64, b uint64) uint64 {
 // guarded is a copy of a list with more members behind its length, of which no call may know.
 func guarded[T any](list []T, behind ...T) []T {
 	return append(slices.Clone(list), behind...)[:len(list)]
+}
+
+// arguments are those of all calls of a chapter: all tells what lies in their memory, behind each length too, and answers makes the calls, tells what they answer, and writes that over.
+type arguments interface {
+	all() []any
+	answers(t *testing.T) []any
+}
+
+// checkUnwritten makes each call twice with lists that have more memory behind their length; what the first one answered is written over ahead of the second.
+func checkUnwritten(t *testing.T, plain, long arguments) {
+	t.Helper()
+	before := long.all()
+	first, second, third := long.answers(t), long.answers(t), plain.answers(t)
+	if !reflect.DeepEqual(first, second) || !reflect.DeepEqual(first, third) {
+		t.Fatalf("%v, then %v, and without what is behind %v", first, second, third)
+	}
+	if !reflect.DeepEqual(before, long.all()) {
+		t.Fatalf("an argument is written into: %v, then %v", before, long.all())
+	}
 }

@@ -2,7 +2,6 @@ package tests
 
 import (
 	"math"
-	"reflect"
 	"slices"
 	"strings"
 	"testing"
@@ -444,7 +443,6 @@ func (s satArguments) answers(t *testing.T) (told []any) {
 	return told
 }
 
-// Each call is made twice with lists that have more memory behind their length, and what the first one answered is written over ahead of the second.
 func TestClausesWriteIntoNoArgument(t *testing.T) {
 	d := newDrawer(73)
 	for range 500 {
@@ -453,15 +451,7 @@ func TestClausesWriteIntoNoArgument(t *testing.T) {
 		if len(plain.c.Clauses) > 0 {
 			plain.c.Clauses[0] = d.spoiledLiterals(plain.c.Clauses[0])
 		}
-		long := plain.guarded()
-		before := long.all()
-		first, second, third := long.answers(t), long.answers(t), plain.answers(t)
-		if !reflect.DeepEqual(first, second) || !reflect.DeepEqual(first, third) {
-			t.Fatalf("%v, then %v, and without what is behind %v", first, second, third)
-		}
-		if !reflect.DeepEqual(before, long.all()) {
-			t.Fatalf("an argument is written into: %v, then %v", before, long.all())
-		}
+		checkUnwritten(t, plain, plain.guarded())
 	}
 }
 
