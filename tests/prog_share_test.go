@@ -46,11 +46,11 @@ func (a progArguments) spoiled(d drawer) progArguments {
 	return a
 }
 
-// guarded has more memory behind each length.
-func (a progArguments) guarded() progArguments {
+// guardedProgram has more memory behind the length of each of its lists.
+func guardedProgram(p impl.Program) impl.Program {
 	behind := nodes(impl.OpNo, 0, 99, 99, impl.OpYes, 1, impl.OpFlip, 0)
 	var commands []impl.Command
-	for _, c := range a.p.Commands {
+	for _, c := range p.Commands {
 		var changes []impl.Change
 		for _, one := range c.Changes {
 			changes = append(changes, change(one.Var, guarded(one.By, behind...)))
@@ -58,28 +58,28 @@ func (a progArguments) guarded() progArguments {
 		changes = guarded(changes, change(3, number(1)), change(-1, nil))
 		commands = append(commands, command(guarded(c.When, behind...), changes...))
 	}
-	a.p.Start = guarded(a.p.Start, behind...)
-	a.p.Commands = guarded(commands, command(always), command(nil, change(9, nil)))
-	a.s, a.ks = guarded(a.s, 1, math.MaxUint64, 0), guarded(a.ks, 0, 1, -1, 6)
-	return a
+	p.Start = guarded(p.Start, behind...)
+	p.Commands = guarded(commands, command(always), command(nil, change(9, nil)))
+	return p
 }
 
-// all tells what lies in the arguments' memory, behind each length too.
-func (a progArguments) all() []any {
-	whole := func(u []impl.Node) []impl.Node { return slices.Clone(u[:cap(u)]) }
-	out := []any{a.p.Wide, a.p.Vars, whole(a.p.Start), slices.Clone(a.s[:cap(a.s)]), slices.Clone(a.ks[:cap(a.ks)])}
-	for _, c := range a.p.Commands[:cap(a.p.Commands)] {
-		out = append(out, len(c.When), whole(c.When), len(c.Changes))
+// memoryOf tells what lies in a list's memory, behind its length too.
+func memoryOf[T any](list []T) []T { return slices.Clone(list[:cap(list)]) }
+
+func programMemory(p impl.Program) []any {
+	out := []any{p.Wide, p.Vars, memoryOf(p.Start)}
+	for _, c := range p.Commands[:cap(p.Commands)] {
+		out = append(out, len(c.When), memoryOf(c.When), len(c.Changes))
 		for _, one := range c.Changes[:cap(c.Changes)] {
-			out = append(out, one.Var, len(one.By), whole(one.By))
+			out = append(out, one.Var, len(one.By), memoryOf(one.By))
 		}
 	}
 	return out
 }
 
-func (a progArguments) spans() [][2]uintptr {
-	out := [][2]uintptr{span(a.p.Start), span(a.p.Commands), span(a.s), span(a.ks)}
-	for _, c := range a.p.Commands {
+func programSpans(p impl.Program) [][2]uintptr {
+	out := [][2]uintptr{span(p.Start), span(p.Commands)}
+	for _, c := range p.Commands {
 		out = append(out, span(c.When), span(c.Changes))
 		for _, one := range c.Changes {
 			out = append(out, span(one.By))
@@ -87,6 +87,19 @@ func (a progArguments) spans() [][2]uintptr {
 	}
 	return out
 }
+
+// guarded has more memory behind each length.
+func (a progArguments) guarded() progArguments {
+	a.p = guardedProgram(a.p)
+	a.s, a.ks = guarded(a.s, 1, math.MaxUint64, 0), guarded(a.ks, 0, 1, -1, 6)
+	return a
+}
+
+func (a progArguments) all() []any {
+	return append(programMemory(a.p), memoryOf(a.s), memoryOf(a.ks))
+}
+
+func (a progArguments) spans() [][2]uintptr { return append(programSpans(a.p), span(a.s), span(a.ks)) }
 
 // answers makes each call of the chapter and writes what it answers over; told is what was answered ahead of that.
 func (a progArguments) answers(t *testing.T) (told []any) {
